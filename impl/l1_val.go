@@ -99,8 +99,10 @@ func valueOf(v Val) (value, bool) {
 
 // signOk says whether a rune may stand in a text.
 func signOk(r rune) bool {
-	return 'a' <= r && r <= 'z' || digitOk(r) || r == '-'
+	return letterOk(r) || digitOk(r) || r == '-'
 }
+
+func letterOk(r rune) bool { return 'a' <= r && r <= 'z' }
 
 func digitOk(r rune) bool { return '0' <= r && r <= '9' }
 
