@@ -1,8 +1,11 @@
 package tests
 
 import (
+	"fmt"
 	"slices"
 	"testing"
+
+	"loop.example/custumal/impl"
 )
 
 // guarded is a list that is cut out of a longer one, with marks ahead of it and in the spare room behind it.
@@ -31,5 +34,92 @@ func scribble[T any](list []T, mark T) {
 	list = list[:cap(list)]
 	for i := range list {
 		list[i] = mark
+	}
+}
+
+// guardedTable is a table of which each list is cut out of a longer one.
+type guardedTable struct {
+	table   impl.Table
+	first   guarded[impl.Col]
+	changes guarded[impl.Change]
+	vals    []guarded[impl.Val]
+	rows    []impl.Row
+	as      string
+}
+
+func guardTable(x impl.Table) guardedTable {
+	g := guardedTable{first: guard(x.First, textCol("m")), changes: guard(x.Changes, drop("m"))}
+	mark := impl.Row{Id: 77, Ver: 7, Vals: []impl.Val{text("mark")}}
+	g.rows = append(g.rows, mark)
+	for _, r := range x.Rows {
+		vals := guard(r.Vals, text("mark"))
+		g.vals = append(g.vals, vals)
+		g.rows = append(g.rows, impl.Row{Id: r.Id, Ver: r.Ver, Vals: vals.list})
+	}
+	g.rows = append(g.rows, mark, mark)
+	g.as = fmt.Sprintf("%#v", g.rows)
+	g.table = impl.Table{First: g.first.list, Changes: g.changes.list, Rows: g.rows[1 : 1+len(x.Rows)], Next: x.Next}
+	return g
+}
+
+func (g guardedTable) check(t *testing.T, what string) {
+	t.Helper()
+	g.first.check(t, what)
+	g.changes.check(t, what)
+	for _, v := range g.vals {
+		v.check(t, what)
+	}
+	if now := fmt.Sprintf("%#v", g.rows); now != g.as {
+		t.Errorf("%s: the rows of an argument were %s, and are %s", what, g.as, now)
+	}
+}
+
+// part is one list of an answer, its spare room included.
+type part struct {
+	wipe func()
+	tell func() string
+}
+
+func partOf[T any](list []T, mark T) part {
+	whole := list[:cap(list)]
+	return part{
+		wipe: func() { scribble(whole, mark) },
+		tell: func() string { return fmt.Sprintf("%#v", whole) },
+	}
+}
+
+// tableParts is all lists of a table. The values of its rows are parts of their own, and not told with the rows.
+func tableParts(x impl.Table) []part {
+	rows := x.Rows[:cap(x.Rows)]
+	list := []part{partOf(x.First, textCol("w")), partOf(x.Changes, drop("w")), {
+		wipe: func() { scribble(rows, impl.Row{Id: -7, Ver: -7}) },
+		tell: func() string {
+			told := ""
+			for _, r := range rows {
+				told += fmt.Sprint(r.Id, r.Ver, len(r.Vals), ";")
+			}
+			return told
+		},
+	}}
+	for _, r := range rows {
+		list = append(list, partOf(r.Vals, text("wipe")))
+	}
+	return list
+}
+
+// checkApart writes all over one list of an answer after the other, and tells if that shows in another one.
+func checkApart(t *testing.T, what string, parts []part) {
+	t.Helper()
+	for i, p := range parts {
+		var was []string
+		for _, other := range parts {
+			was = append(was, other.tell())
+		}
+		p.wipe()
+		for j, other := range parts {
+			if now := other.tell(); j != i && now != was[j] {
+				t.Errorf("%s: the lists %d and %d of an answer share memory: %s is %s", what, i, j, was[j], now)
+			}
+		}
 	}
 }
