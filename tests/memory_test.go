@@ -74,6 +74,41 @@ func (g guardedTable) check(t *testing.T, what string) {
 	}
 }
 
+// guardedBase is a base of which each list is cut out of a longer one.
+type guardedBase struct {
+	base   impl.Base
+	tables []guardedTable
+	links  guarded[impl.Link]
+	tabs   []impl.Tab
+	as     string
+}
+
+func guardBase(b impl.Base) guardedBase {
+	g := guardedBase{links: guard(b.Links, impl.Link{From: "m", How: 77})}
+	mark := impl.Tab{Name: "mark", Table: impl.Table{Next: 77}}
+	g.tabs = append(g.tabs, mark)
+	for _, x := range b.Tabs {
+		table := guardTable(x.Table)
+		g.tables = append(g.tables, table)
+		g.tabs = append(g.tabs, impl.Tab{Name: x.Name, Table: table.table})
+	}
+	g.tabs = append(g.tabs, mark, mark)
+	g.as = fmt.Sprintf("%#v", g.tabs)
+	g.base = impl.Base{Tabs: g.tabs[1 : 1+len(b.Tabs)], Links: g.links.list}
+	return g
+}
+
+func (g guardedBase) check(t *testing.T, what string) {
+	t.Helper()
+	g.links.check(t, what)
+	for _, x := range g.tables {
+		x.check(t, what)
+	}
+	if now := fmt.Sprintf("%#v", g.tabs); now != g.as {
+		t.Errorf("%s: the tables of an argument were %s, and are %s", what, g.as, now)
+	}
+}
+
 // part is one list of an answer, its spare room included.
 type part struct {
 	wipe func()
@@ -103,6 +138,25 @@ func tableParts(x impl.Table) []part {
 	}}
 	for _, r := range rows {
 		list = append(list, partOf(r.Vals, text("wipe")))
+	}
+	return list
+}
+
+// baseParts is all lists of a base. The lists of its tables are parts of their own, and not told with the tables.
+func baseParts(b impl.Base) []part {
+	tabs := b.Tabs[:cap(b.Tabs)]
+	list := []part{partOf(b.Links, impl.Link{From: "wipe"}), {
+		wipe: func() { scribble(tabs, impl.Tab{Name: "wipe"}) },
+		tell: func() string {
+			told := ""
+			for _, x := range tabs {
+				told += fmt.Sprint(x.Name, x.Table.Next, len(x.Table.First), len(x.Table.Changes), len(x.Table.Rows), ";")
+			}
+			return told
+		},
+	}}
+	for _, x := range tabs {
+		list = append(list, tableParts(x.Table)...)
 	}
 	return list
 }
