@@ -109,6 +109,42 @@ func (g guardedBase) check(t *testing.T, what string) {
 	}
 }
 
+// guardedActs is acts of which each list is cut out of a longer one, and so are they.
+type guardedActs struct {
+	acts []impl.Act
+	sets []guarded[impl.Set]
+	cols []guarded[impl.Col]
+	all  []impl.Act
+	as   string
+}
+
+func guardActs(list ...impl.Act) guardedActs {
+	var g guardedActs
+	mark := impl.Act{Kind: 77, Name: "mark", Sets: sets(is("mark", none)), Cols: colsOf(1)}
+	g.all = append(g.all, mark)
+	for _, a := range list {
+		told, cols := guard(a.Sets, is("m", text("mark"))), guard(a.Cols, textCol("m"))
+		g.sets, g.cols = append(g.sets, told), append(g.cols, cols)
+		a.Sets, a.Cols = told.list, cols.list
+		g.all = append(g.all, a)
+	}
+	g.all = append(g.all, mark, mark)
+	g.as = fmt.Sprintf("%#v", g.all)
+	g.acts = g.all[1 : 1+len(list)]
+	return g
+}
+
+func (g guardedActs) check(t *testing.T, what string) {
+	t.Helper()
+	for i := range g.acts {
+		g.sets[i].check(t, what)
+		g.cols[i].check(t, what)
+	}
+	if now := fmt.Sprintf("%#v", g.all); now != g.as {
+		t.Errorf("%s: the acts of an argument were %s, and are %s", what, g.as, now)
+	}
+}
+
 // part is one list of an answer, its spare room included.
 type part struct {
 	wipe func()
@@ -159,6 +195,11 @@ func baseParts(b impl.Base) []part {
 		list = append(list, tableParts(x.Table)...)
 	}
 	return list
+}
+
+// actParts is all lists of what is done.
+func actParts(a impl.Act) []part {
+	return []part{partOf(a.Sets, is("w", text("wipe"))), partOf(a.Cols, textCol("w"))}
 }
 
 // checkApart writes all over one list of an answer after the other, and tells if that shows in another one.
