@@ -145,6 +145,39 @@ func (g guardedActs) check(t *testing.T, what string) {
 	}
 }
 
+// guardedLog is a log of which each list is cut out of a longer one, and so are its times.
+type guardedLog struct {
+	log   [][]impl.Act
+	times []guardedActs
+	all   [][]impl.Act
+	as    string
+}
+
+func guardLog(log [][]impl.Act) guardedLog {
+	var g guardedLog
+	mark := []impl.Act{{Kind: 77, Name: "mark"}}
+	g.all = append(g.all, mark)
+	for _, list := range log {
+		acts := guardActs(list...)
+		g.times = append(g.times, acts)
+		g.all = append(g.all, acts.acts)
+	}
+	g.all = append(g.all, mark, mark)
+	g.as = fmt.Sprintf("%#v", g.all)
+	g.log = g.all[1 : 1+len(log)]
+	return g
+}
+
+func (g guardedLog) check(t *testing.T, what string) {
+	t.Helper()
+	for _, acts := range g.times {
+		acts.check(t, what)
+	}
+	if now := fmt.Sprintf("%#v", g.all); now != g.as {
+		t.Errorf("%s: the times of an argument were %s, and are %s", what, g.as, now)
+	}
+}
+
 // part is one list of an answer, its spare room included.
 type part struct {
 	wipe func()
@@ -200,6 +233,38 @@ func baseParts(b impl.Base) []part {
 // actParts is all lists of what is done.
 func actParts(a impl.Act) []part {
 	return []part{partOf(a.Sets, is("w", text("wipe"))), partOf(a.Cols, textCol("w"))}
+}
+
+// logParts is all lists of a log. The acts of its times, and the lists of these, are parts of their own.
+func logParts(log [][]impl.Act) []part {
+	times := log[:cap(log)]
+	list := []part{{
+		wipe: func() { scribble(times, nil) },
+		tell: func() string {
+			told := ""
+			for _, acts := range times {
+				told += fmt.Sprint(len(acts), ";")
+			}
+			return told
+		},
+	}}
+	for _, acts := range times {
+		acts = acts[:cap(acts)]
+		list = append(list, part{
+			wipe: func() { scribble(acts, impl.Act{Kind: -7, Name: "wipe"}) },
+			tell: func() string {
+				told := ""
+				for _, a := range acts {
+					told += fmt.Sprint(a.Kind, a.Name, a.Id, len(a.Sets), len(a.Cols), a.Change, a.Link, ";")
+				}
+				return told
+			},
+		})
+		for _, a := range acts {
+			list = append(list, actParts(a)...)
+		}
+	}
+	return list
 }
 
 // checkApart writes all over one list of an answer after the other, and tells if that shows in another one.
